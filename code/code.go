@@ -100,7 +100,7 @@ func line(o api.Op) string {
 func Parse(text string) ([]api.Op, error) {
 	var l []api.Op
 	for line := range strings.Lines(text) {
-		o, ok := read(line)
+		o, ok := Read(line)
 		if !ok {
 			return nil, api.ErrSyntax
 		}
@@ -115,8 +115,8 @@ func Parse(text string) ([]api.Op, error) {
 	return l, nil
 }
 
-// read takes a line as an op, whose numbers may still be out of bounds.
-func read(line string) (api.Op, bool) {
+// Read takes a line as an op, if it has the form of one; its numbers may still be out of bounds.
+func Read(line string) (api.Op, bool) {
 	name, numbers, ok := words.Read(line, digits)
 	what := named(name)
 	if !ok || what == 0 {

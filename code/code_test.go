@@ -212,6 +212,31 @@ func TestC2ParseTellsSyntaxFirst(t *testing.T) {
 	refused(t, strings.Repeat("jump 99\n", 30)+"\n", api.ErrSyntax)
 }
 
+// TestC2ReadOfALine: its form alone is asked, not what its numbers may be in code.
+func TestC2ReadOfALine(t *testing.T) {
+	cases := []struct {
+		line string
+		want api.Op
+		ok   bool
+	}{
+		{"set 5 999\n", api.Op{What: api.Set, A: 5, B: 999}, true},
+		{"set 9999 9999\n", api.Op{What: api.Set, A: 9999, B: 9999}, true},
+		{"jump 20\n", api.Op{What: api.Jump, B: 20}, true},
+		{"fail\n", api.Op{What: api.Fail}, true},
+		{"", api.Op{}, false},
+		{"\n", api.Op{}, false},
+		{"fail", api.Op{}, false},
+		{"fail\nfail\n", api.Op{}, false},
+		{"set 5 10000\n", api.Op{}, false},
+		{"room\n", api.Op{}, false},
+	}
+	for _, c := range cases {
+		if got, ok := Read(c.line); got != c.want || ok != c.ok {
+			t.Errorf("Read(%q): got %v, %v, want %v, %v", c.line, got, ok, c.want, c.ok)
+		}
+	}
+}
+
 // TestC2ParseTakesWhatPrintWrites: of all texts that are one byte off, those that are taken are printed as they stand.
 func TestC2ParseTakesWhatPrintWrites(t *testing.T) {
 	taken := 0

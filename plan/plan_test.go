@@ -213,6 +213,49 @@ func TestP1CheckOfEachSendAndTake(t *testing.T) {
 	}
 }
 
+// TestP1CheckOfAllCodesAheadOfTheirWires: whichever room has a wrong wire, in whichever way, a code that is wrong by itself is told, and of two such codes the first one.
+func TestP1CheckOfAllCodesAheadOfTheirWires(t *testing.T) {
+	wrong := []struct {
+		l    []api.Op
+		want api.Errno
+	}{
+		{nil, api.ErrNone},
+		{[]api.Op{}, api.ErrNone},
+		{rests(21), api.ErrFull},
+		{[]api.Op{{What: api.Jump, B: 1}}, api.ErrRange},
+		{[]api.Op{{What: api.Send, B: 11}, {What: api.Take, B: 12}}, api.ErrRange},
+	}
+	// On a wire that is not there, and at the wrong end of one that is.
+	astray := func(p api.Plan, a int) [][]api.Op {
+		from := slices.IndexFunc(p.Wires, func(w api.Wire) bool { return w.From == a })
+		to := slices.IndexFunc(p.Wires, func(w api.Wire) bool { return w.To == a })
+		return [][]api.Op{{{What: api.Send, B: 11}}, {{What: api.Take, B: 11}}, {{What: api.Send, B: to}}, {{What: api.Take, B: from}}}
+	}
+	for a := range 5 {
+		p := resting(5)
+		p.Wires = full().Wires[:5]
+		for _, l := range astray(p, a) {
+			p.Code = resting(5).Code
+			p.Code[a] = l
+			checked(t, p, api.ErrShape)
+			for b := range 5 {
+				for _, w := range wrong {
+					p.Code = resting(5).Code
+					p.Code[a], p.Code[b] = l, w.l
+					checked(t, p, w.want)
+				}
+				for c := range b {
+					for i, w := range wrong {
+						p.Code = resting(5).Code
+						p.Code[a], p.Code[b], p.Code[c] = l, wrong[(i+2)%len(wrong)].l, w.l
+						checked(t, p, w.want)
+					}
+				}
+			}
+		}
+	}
+}
+
 // faults of a plan, in the order in which they are told; what is put into the last code is put behind what is there, so that any of them may stand together.
 var faults = []struct {
 	want   api.Errno
@@ -224,9 +267,9 @@ var faults = []struct {
 	{api.ErrShape, func(p *api.Plan) { p.Wires = append(p.Wires, queue(1, 1)) }},
 	{api.ErrRange, func(p *api.Plan) { p.Wires[0].To = 4 }},
 	{api.ErrNone, func(p *api.Plan) { p.Code[0] = nil }},
-	{api.ErrShape, func(p *api.Plan) { p.Code[1][0] = api.Op{What: api.Take, B: 9} }},
 	{api.ErrFull, func(p *api.Plan) { p.Code[2] = rests(21) }},
 	{api.ErrRange, func(p *api.Plan) { p.Code[3][1] = api.Op{What: api.Jump, B: 2} }},
+	{api.ErrShape, func(p *api.Plan) { p.Code[1][0] = api.Op{What: api.Take, B: 9} }},
 	{api.ErrShape, func(p *api.Plan) { p.Code[3][0] = api.Op{What: api.Send, B: 9} }},
 }
 
@@ -379,7 +422,12 @@ func TestP2ParseHasTheErrorOfCheck(t *testing.T) {
 		{"frame 4\nroom\nsend 0 0\n", api.ErrShape},
 		{"frame 4\nwire 0 1 1 1\nroom\ntake 0 0\nroom\nrest\n", api.ErrShape},
 		{"frame 4\nwire 0 1 1 1\nroom\nrest\nroom\nsend 0 0\n", api.ErrShape},
-		{"frame 4\nroom\nsend 0 0\nroom\njump 1\n", api.ErrShape},
+		{"frame 4\nroom\nsend 0 0\nroom\nrest\n", api.ErrShape},
+		{"frame 4\nroom\nsend 0 0\nroom\njump 1\n", api.ErrRange},
+		{"frame 4\nroom\nsend 0 0\nroom\n", api.ErrNone},
+		{"frame 4\nroom\ntake 0 0\nroom\n" + strings.Repeat("rest\n", 21), api.ErrFull},
+		{"frame 4\nwire 0 1 1 1\nroom\ntake 0 0\nroom\nset 0 1000\n", api.ErrRange},
+		{"frame 4\nroom\nsend 0 0\nroom\nroom\njump 1\n", api.ErrNone},
 		{"frame 4\nroom\njump 1\nroom\nsend 0 0\n", api.ErrRange},
 	}
 	for _, c := range cases {

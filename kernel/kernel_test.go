@@ -450,6 +450,83 @@ func TestK2PokeCountsAtTheNextTick(t *testing.T) {
 	ticks(t, k, 0, [2]int{0, 0}, [2]int{0, 0})
 }
 
+// TestTurn: it tells ahead of each tick who has it, and changes nothing.
+func TestTurn(t *testing.T) {
+	k := made(t, "frame 5\nspan 3 4 0\nspan 0 2 1\nroom\nset 0 1\nfail\nroom\nrest\n")
+	for n := range 100 {
+		want := seen(k)
+		for range 3 {
+			if got := k.Turn(); got != []int{1, 1, -1, 0, -1}[n%5] {
+				t.Errorf("Turn at %d: got %d", n, got)
+			}
+		}
+		if got := seen(k); !got.same(want) {
+			t.Errorf("got %v, want %v", got, want)
+		}
+		k.Tick()
+	}
+}
+
+// TestPut: a room goes on from the state it was put into, be it one that failed or not; nothing else is changed.
+func TestPut(t *testing.T) {
+	k := made(t, "frame 2\nspan 0 1 0\nspan 1 2 1\nwire 0 1 2 3\nroom\nsend 0 0\nset 0 7\nfail\nroom\ntake 0 0\n")
+	for range 6 {
+		k.Tick()
+	}
+	want := seen(k)
+	for _, s := range []api.State{
+		{},
+		{At: 2, Cells: [6]int{999, 999, 999, 999, 999, 999}},
+		{At: 1, Failed: true},
+		{At: 2, Cells: [6]int{5: 999}, Failed: true},
+		{Cells: [6]int{41}},
+	} {
+		if err := k.Put(0, s); err != nil {
+			t.Errorf("Put(0, %v): got %v", s, err)
+		}
+		want.rooms[0] = s
+		if got := seen(k); !got.same(want) {
+			t.Errorf("Put(0, %v): got %v, want %v", s, got, want)
+		}
+	}
+	ticks(t, k, 0, [2]int{0, 1})
+	stands(t, k, 0, api.State{At: 1, Cells: [6]int{41}})
+	holds(t, k, 0, 0, 41)
+}
+
+// TestPutOfWhatMayNotBe: nothing is changed by a room that is not there, nor by a place or a cell that its own code and Modulo do not allow.
+func TestPutOfWhatMayNotBe(t *testing.T) {
+	k := made(t, "frame 2\nspan 0 1 0\nspan 1 2 1\nroom\nset 0 7\nrest\nfail\nroom\nset 0 8\n")
+	for range 3 {
+		k.Tick()
+	}
+	want := seen(k)
+	refused := func(r int, s api.State) {
+		t.Helper()
+		if got := plain.Told(k.Put(r, s)); got != api.ErrRange {
+			t.Errorf("Put(%d, %v): got %v, want %v", r, s, got, api.ErrRange)
+		}
+	}
+	for _, r := range []int{math.MinInt, -1, 2, 5, math.MaxInt} {
+		refused(r, api.State{})
+	}
+	for _, at := range []int{math.MinInt, -1, 3, 20, math.MaxInt} {
+		refused(0, api.State{At: at})
+		refused(1, api.State{At: at, Failed: true})
+	}
+	refused(1, api.State{At: 1})
+	for cell := range 6 {
+		for _, n := range []int{math.MinInt, -1, 1000, math.MaxInt} {
+			s := api.State{}
+			s.Cells[cell] = n
+			refused(0, s)
+		}
+	}
+	if got := seen(k); !got.same(want) {
+		t.Errorf("got %v, want %v", got, want)
+	}
+}
+
 // TestP2PlanIsTheCallers: New writes nothing into a plan, nor behind its lists; and whoever changes the plan later changes no kernel.
 func TestP2PlanIsTheCallers(t *testing.T) {
 	text := "frame 2\nspan 0 1 0\nspan 1 2 1\nwire 0 1 2 1\nroom\nset 0 5\nsend 0 0\nroom\ntake 1 0\n"

@@ -527,6 +527,74 @@ func TestPutOfWhatMayNotBe(t *testing.T) {
 	}
 }
 
+// TestUse: from the next tick on, be it within a frame, other spans tell who has it; nothing else is changed, and the time goes on.
+func TestUse(t *testing.T) {
+	k := made(t, "frame 3\nspan 0 3 0\nwire 0 1 2 3\nroom\nset 0 7\nsend 0 0\nroom\ntake 0 0\n")
+	ticks(t, k, 0, [2]int{0, 0}, [2]int{1, 1})
+	want := seen(k)
+	for _, c := range []struct {
+		spans []api.Span
+		turn  int
+	}{
+		{nil, -1},
+		{[]api.Span{{From: 2, To: 3, Room: 0}}, 0},
+		{[]api.Span{}, -1},
+		{[]api.Span{{From: 1, To: 3, Room: 1}, {From: 0, To: 1, Room: 0}}, 1},
+	} {
+		if err := k.Use(c.spans); err != nil || k.Turn() != c.turn {
+			t.Errorf("Use(%v): got %v, then Turn %d", c.spans, err, k.Turn())
+		}
+		if got := seen(k); !got.same(want) {
+			t.Errorf("Use(%v): got %v, want %v", c.spans, got, want)
+		}
+	}
+	ticks(t, k, 1, [2]int{0, 2})
+	ticks(t, k, 0, [2]int{0, 0})
+	ticks(t, k, 1, [2]int{0, 3}, [2]int{0, 3})
+	ticks(t, k, 0, [2]int{1, 1})
+	holds(t, k, 0, 0, 7)
+}
+
+// TestUseOfWhatMayNotBe: nothing is changed by spans that do not fit the frame, or that name a room that is not there.
+func TestUseOfWhatMayNotBe(t *testing.T) {
+	k := made(t, "frame 3\nspan 0 3 1\nroom\nrest\nroom\nset 0 8\n")
+	many := slices.Repeat([]api.Span{{To: 1}}, 13)
+	for _, c := range []struct {
+		want  api.Errno
+		spans []api.Span
+	}{
+		{api.ErrRange, []api.Span{{From: -1, To: 1}}},
+		{api.ErrRange, []api.Span{{From: 1, To: 1}}},
+		{api.ErrRange, []api.Span{{To: 4}}},
+		{api.ErrRange, []api.Span{{To: 1, Room: -1}}},
+		{api.ErrRange, []api.Span{{To: 1}, {From: 1, To: 2, Room: 2}}},
+		{api.ErrRange, []api.Span{{To: 1, Room: 5}}},
+		{api.ErrClash, []api.Span{{To: 2}, {From: 1, To: 3}}},
+		{api.ErrClash, []api.Span{{To: 2, Room: 2}, {From: 1, To: 3}}},
+		{api.ErrFull, many},
+	} {
+		if got := plain.Told(k.Use(c.spans)); got != c.want {
+			t.Errorf("Use(%v): got %v, want %v", c.spans, got, c.want)
+		}
+		ticks(t, k, 1, [2]int{0, 0})
+	}
+}
+
+// TestP2SpansAreTheCallers: Use writes nothing into spans, nor behind them; and whoever changes them later changes no kernel.
+func TestP2SpansAreTheCallers(t *testing.T) {
+	k := made(t, "frame 2\nroom\nrest\nroom\nrest\n")
+	l := append(make([]api.Span, 0, 9), api.Span{To: 2, Room: 1})
+	if err := k.Use(l); err != nil {
+		t.Fatal(err)
+	}
+	ticks(t, k, 1, [2]int{})
+	if l[0] != (api.Span{To: 2, Room: 1}) || l[:2][1] != (api.Span{}) {
+		t.Errorf("the spans are %v now", l[:2])
+	}
+	l[0].Room = 0
+	ticks(t, k, 1, [2]int{}, [2]int{}, [2]int{})
+}
+
 // TestP2PlanIsTheCallers: New writes nothing into a plan, nor behind its lists; and whoever changes the plan later changes no kernel.
 func TestP2PlanIsTheCallers(t *testing.T) {
 	text := "frame 2\nspan 0 1 0\nspan 1 2 1\nwire 0 1 2 1\nroom\nset 0 5\nsend 0 0\nroom\ntake 1 0\n"

@@ -527,6 +527,76 @@ func TestPutOfWhatMayNotBe(t *testing.T) {
 	}
 }
 
+// TestPutWire: what is put on a wire is there for the room at its end; nothing else is changed.
+func TestPutWire(t *testing.T) {
+	k := made(t, "frame 2\nspan 0 1 0\nspan 1 2 1\nwire 0 1 2 3\nwire 0 1 1 1\nroom\nsend 0 0\nsend 0 1\nroom\ntake 0 0\ntake 1 1\n")
+	put := func(want api.Errno, i, lost int, items ...int) {
+		t.Helper()
+		if err := k.PutWire(i, api.Held{Items: items, Lost: lost}); plain.Told(err) != want {
+			t.Errorf("PutWire(%d, %v, %d): got %v, want %v", i, items, lost, plain.Told(err), want)
+		}
+	}
+	put(api.OK, 0, 6, 7, 8, 9)
+	put(api.OK, 1, 0, 5)
+	holds(t, k, 0, 6, 7, 8, 9)
+	holds(t, k, 1, 0, 5)
+	want := seen(k)
+	for _, i := range []int{math.MinInt, -1, 2, 12, math.MaxInt} {
+		put(api.ErrRange, i, 0)
+		put(api.ErrRange, i, 0, 1)
+	}
+	put(api.ErrRange, 0, 0, 1, 2, 3, 4)
+	put(api.ErrRange, 0, -1)
+	put(api.ErrRange, 0, 0, 1000)
+	put(api.ErrRange, 1, 1)
+	put(api.ErrRange, 1, 0, 1, 2)
+	put(api.ErrRange, 1, 0, -1)
+	if got := seen(k); !got.same(want) {
+		t.Errorf("got %v, want %v", got, want)
+	}
+	ticks(t, k, 0, [2]int{0, 3})
+	ticks(t, k, 1, [2]int{0, 2})
+	ticks(t, k, 0, [2]int{1, 1})
+	ticks(t, k, 1, [2]int{1, 2})
+	stands(t, k, 1, api.State{Cells: [6]int{7, 0}})
+	holds(t, k, 0, 7, 8, 9)
+	put(api.OK, 0, 0)
+	holds(t, k, 0, 0)
+	ticks(t, k, 0, [2]int{0, 1})
+	put(api.OK, 0, 0)
+	ticks(t, k, 1, [2]int{0, 3})
+}
+
+// TestPutTime: from another time on, be it ahead or behind, the frame goes on as it would; nothing else is changed.
+func TestPutTime(t *testing.T) {
+	k := made(t, "frame 3\nspan 0 1 1\nspan 2 3 0\nroom\nrest\nrest\nroom\nset 0 7\nfail\n")
+	ticks(t, k, 1, [2]int{0, 0})
+	want := seen(k)
+	for _, n := range []int{0, 1, 2, 3, 4, 5, 39, 1000, 1_000_001, 9_999_999} {
+		if err := k.PutTime(n); err != nil || k.Turn() != []int{1, -1, 0}[n%3] {
+			t.Errorf("PutTime(%d): got %v, then Turn %d", n, err, k.Turn())
+		}
+		want.time = n
+		if got := seen(k); !got.same(want) {
+			t.Errorf("PutTime(%d): got %v, want %v", n, got, want)
+		}
+		for _, wrong := range []int{math.MinInt, -3, -1} {
+			if err := k.PutTime(wrong); plain.Told(err) != api.ErrRange {
+				t.Errorf("PutTime(%d): got %v", wrong, err)
+			}
+		}
+		if got := seen(k); !got.same(want) {
+			t.Errorf("behind what may not be: got %v, want %v", got, want)
+		}
+	}
+	k.PutTime(5)
+	ticks(t, k, 0, [2]int{0, 0})
+	ticks(t, k, 1, [2]int{1, 4})
+	ticked(t, k, api.Event{Tick: 7, Room: -1})
+	k.PutTime(0)
+	ticks(t, k, 1, [2]int{1, 5})
+}
+
 // TestUse: from the next tick on, be it within a frame, other spans tell who has it; nothing else is changed, and the time goes on.
 func TestUse(t *testing.T) {
 	k := made(t, "frame 3\nspan 0 3 0\nwire 0 1 2 3\nroom\nset 0 7\nsend 0 0\nroom\ntake 0 0\n")
@@ -593,6 +663,21 @@ func TestP2SpansAreTheCallers(t *testing.T) {
 	}
 	l[0].Room = 0
 	ticks(t, k, 1, [2]int{}, [2]int{}, [2]int{})
+}
+
+// TestP2PutWireIsTheCallers: PutWire writes nothing into a list, nor behind it; and whoever changes it later changes no wire.
+func TestP2PutWireIsTheCallers(t *testing.T) {
+	k := made(t, "frame 1\nspan 0 1 0\nwire 0 1 2 3\nroom\nsend 0 0\nroom\nrest\n")
+	all := []int{4, 5, -1}
+	if err := k.PutWire(0, api.Held{Items: all[:2]}); err != nil {
+		t.Fatal(err)
+	}
+	ticks(t, k, 0, [2]int{0, 1})
+	if !slices.Equal(all, []int{4, 5, -1}) {
+		t.Errorf("the list is %v now", all)
+	}
+	clear(all)
+	holds(t, k, 0, 0, 4, 5, 0)
 }
 
 // TestP2PlanIsTheCallers: New writes nothing into a plan, nor behind its lists; and whoever changes the plan later changes no kernel.

@@ -241,6 +241,101 @@ func TestW1OfAllOrders(t *testing.T) {
 	}
 }
 
+// put asks for all that Put answers.
+func put(t *testing.T, l *Line, want api.Errno, lost int, items ...int) {
+	t.Helper()
+	if err := l.Put(api.Held{Items: items, Lost: lost}); plain.Told(err) != want {
+		t.Errorf("Put(%v, %d): got %v, want %v", items, lost, plain.Told(err), want)
+	}
+}
+
+// TestPut: what is put there takes the place of all that was, and the line goes on with it.
+func TestPut(t *testing.T) {
+	l := laid(t, api.Queue, 3)
+	put(t, l, api.OK, 9_999_999, 0, 999, 0)
+	holds(t, l, 9_999_999, 0, 999, 0)
+	sent(t, l, 5, false, api.OK)
+	taken(t, l, 0, api.OK)
+	sent(t, l, 6, true, api.OK)
+	holds(t, l, 10_000_000, 999, 0, 6)
+	put(t, l, api.OK, 1, 8)
+	holds(t, l, 1, 8)
+	put(t, l, api.OK, math.MaxInt)
+	holds(t, l, math.MaxInt)
+	put(t, l, api.OK, 0)
+	holds(t, l, 0)
+	sent(t, l, 4, true, api.OK)
+	holds(t, l, 0, 4)
+
+	s := laid(t, api.Sample, 1)
+	put(t, s, api.OK, 0, 999)
+	taken(t, s, 999, api.OK)
+	sent(t, s, 3, true, api.OK)
+	holds(t, s, 0, 3)
+	put(t, s, api.OK, 0)
+	taken(t, s, 0, api.ErrNone)
+	sent(t, s, 2, true, api.OK)
+	holds(t, s, 0, 2)
+}
+
+// TestPutOfWhatMayNotBe: nothing is changed by more than it is deep, by what nobody could send, nor by what could not be lost.
+func TestPutOfWhatMayNotBe(t *testing.T) {
+	s := laid(t, api.Sample, 1)
+	put(t, s, api.OK, 0, 7)
+	for _, lost := range []int{math.MinInt, -1, 1, 2, math.MaxInt} {
+		put(t, s, api.ErrRange, lost)
+		put(t, s, api.ErrRange, lost, 5)
+		holds(t, s, 0, 7)
+	}
+	put(t, s, api.ErrRange, 0, 5, 6)
+	holds(t, s, 0, 7)
+	for deep := 1; deep <= 6; deep++ {
+		l := laid(t, api.Queue, deep)
+		full := []int{11, 12, 13, 14, 15, 16, 17, 18}[:deep]
+		put(t, l, api.OK, 3, full...)
+		for more := 1; deep+more <= 8; more++ {
+			put(t, l, api.ErrRange, 0, make([]int, deep+more)...)
+			holds(t, l, 3, full...)
+		}
+		for _, lost := range []int{math.MinInt, -2, -1} {
+			put(t, l, api.ErrRange, lost, 5)
+			holds(t, l, 3, full...)
+		}
+		for i := range deep {
+			for _, n := range []int{math.MinInt, -1, 1000, math.MaxInt} {
+				items := make([]int, deep)
+				items[i] = n
+				put(t, l, api.ErrRange, 0, items...)
+				put(t, l, api.ErrRange, 0, items[:i+1]...)
+				holds(t, l, 3, full...)
+			}
+		}
+	}
+}
+
+// TestP2PutIsTheCallers: Put writes nothing into a list, nor behind it, and keeps none; nor does the line later.
+func TestP2PutIsTheCallers(t *testing.T) {
+	for _, kind := range []int{api.Sample, api.Queue} {
+		l := laid(t, kind, 1)
+		all := []int{4, -1, -1}
+		put(t, l, api.OK, 0, all[:1]...)
+		sent(t, l, 6, kind == api.Sample, api.OK)
+		taken(t, l, l.Held().Items[0], api.OK)
+		sent(t, l, 7, true, api.OK)
+		if !slices.Equal(all, []int{4, -1, -1}) {
+			t.Errorf("the list is %v now", all)
+		}
+		put(t, l, api.OK, 0, all[:1]...)
+		all[0] = 77
+		holds(t, l, 0, 4)
+		put(t, l, api.OK, 0, all[:0]...)
+		sent(t, l, 8, true, api.OK)
+		if all[0] != 77 {
+			t.Errorf("the list is %v now", all)
+		}
+	}
+}
+
 // TestP2LinesAreApart: neither does one line change another one, nor the wire that it was made of.
 func TestP2LinesAreApart(t *testing.T) {
 	w := cord(api.Queue, 2)

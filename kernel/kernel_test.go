@@ -69,9 +69,13 @@ func holds(t *testing.T, k *Kernel, i, lost int, items ...int) {
 	}
 }
 
-// poked asks what Poke tells.
+// poked asks what Poke tells, and CheckPoke ahead of it, which changes nothing.
 func poked(t *testing.T, k *Kernel, room, cell, n int, want api.Errno) {
 	t.Helper()
+	ahead := seen(k)
+	if got := plain.Told(k.CheckPoke(room, cell, n)); got != want || !seen(k).same(ahead) {
+		t.Errorf("CheckPoke(%d, %d, %d): got %v, want %v; %v is %v now", room, cell, n, got, want, ahead, seen(k))
+	}
 	if got := plain.Told(k.Poke(room, cell, n)); got != want {
 		t.Errorf("Poke(%d, %d, %d): got %v, want %v", room, cell, n, got, want)
 	}

@@ -537,3 +537,29 @@ func TestP2AnswersAreTheCallers(t *testing.T) {
 		t.Errorf("another answer is %v, %v", q, err)
 	}
 }
+
+// TestClone: it is the same plan, right or wrong, in memory of its own: whoever writes into its lists, and behind them, changes neither the plan nor another one of it.
+func TestClone(t *testing.T) {
+	wrong := func() api.Plan {
+		p := full()
+		p.Ticks, p.Code[3] = -1, nil
+		return p
+	}
+	none := func() api.Plan { return api.Plan{Ticks: 7} }
+	for i, laid := range []func() api.Plan{full, wrong, none} {
+		p := laid()
+		q, again := Clone(p), Clone(p)
+		if !same(q, laid()) {
+			t.Errorf("plan %d: got %v, want %v", i, q, laid())
+		}
+		for _, l := range q.Code {
+			clear(l[:cap(l)])
+		}
+		clear(q.Code[:cap(q.Code)])
+		clear(q.Spans[:cap(q.Spans)])
+		clear(q.Wires[:cap(q.Wires)])
+		if !same(p, laid()) || !same(again, laid()) {
+			t.Errorf("plan %d: %v, %v now, want %v", i, p, again, laid())
+		}
+	}
+}

@@ -281,6 +281,36 @@ func TestA1Fails(t *testing.T) {
 	stands(t, first, api.State{Failed: true}, 2)
 }
 
+// TestNext: it is the op at which the room is, that of its own code, ahead of a step and behind a jump, while it waits, and when it has failed; asking changes nothing.
+func TestNext(t *testing.T) {
+	p := parsed(t, "frame 1\nwire 0 1 2 1\nroom\nsend 0 0\nroom\nset 1 2\ntake 5 0\nzero 0 4\nrest\nsub 1 2\nfail\n")
+	a := made(t, p, 1)
+	at := []int{0, 1, 1, 1, 2, 4, 5, 5, 5}
+	for n, i := range at {
+		want := p.Code[1][i]
+		for range 3 {
+			if got := a.Next(); got != want {
+				t.Errorf("Next behind %d steps: got %v, want %v", n, got, want)
+			}
+		}
+		if a.State().At != i || a.Turns() != n {
+			t.Errorf("got %v behind %d steps, want %d behind %d", a.State(), a.Turns(), i, n)
+		}
+		got := nothing
+		if n == 3 {
+			got = 7
+		}
+		if _, _, err := a.Step(offer(got)); err != nil {
+			t.Fatal(err)
+		}
+	}
+	first := made(t, p, 0)
+	clear(p.Code[0])
+	if got := first.Next(); got != (api.Op{What: api.Send}) {
+		t.Errorf("Next of the plan as it was: got %v", got)
+	}
+}
+
 // TestP2PlanIsTheCallers: New writes nothing into a plan, nor behind its lists; and whoever changes the plan later changes no room.
 func TestP2PlanIsTheCallers(t *testing.T) {
 	text := "frame 2\nspan 0 1 0\nspan 1 2 1\nwire 0 1 2 1\nroom\nset 0 5\nsend 0 0\nroom\ntake 1 0\n"

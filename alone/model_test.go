@@ -142,6 +142,9 @@ func TestA1AsTheModel(t *testing.T) {
 				if d.below(3) == 0 {
 					got = nothing
 				}
+				if o := m.l[m.s.At]; a.Next() != o {
+					t.Errorf("Next: got %v, want %v", a.Next(), o)
+				}
 				want, sent := m.step(offer(got))
 				stepped(t, a, got, want, sent)
 				stands(t, a, m.s, m.turns)
